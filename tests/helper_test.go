@@ -26,7 +26,7 @@ func outside(least, most int) []int {
 // anyNumbers has numbers at and beside the limits of the document, and the ends of the type.
 func anyNumbers() []int {
 	numbers := []int{math.MinInt, math.MinInt + 1, math.MinInt / 2, math.MaxInt / 2, math.MaxInt - 1, math.MaxInt}
-	for _, n := range []int{0, 9, 10, 99, 1000, 2000, 6893, 4000000} {
+	for _, n := range []int{0, 7, 9, 10, 16, 99, 100, 400, 1000, 2000, 6893, 4000000} {
 		numbers = append(numbers, -n-1, -n, n-1, n, n+1)
 	}
 	return numbers
