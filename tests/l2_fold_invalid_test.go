@@ -56,6 +56,16 @@ func TestInvalidPagesOfSignatures(t *testing.T) {
 	}
 }
 
+func TestSignaturesPastTheEndOfNumbers(t *testing.T) {
+	// So many pages before the signature wrap around to none, or nearly none.
+	for _, c := range []struct{ per, signature int }{{1, 1<<62 + 1}, {1, 1<<62 + 2}, {2, 1<<61 + 1}, {4, 1<<61 + 1}, {16, 1<<58 + 1}, {16, 1<<62 + 3}} {
+		for page := 1; page <= 4*c.per; page++ {
+			n, ok := impl.PageInBook(impl.MaxPages, c.per, c.signature, page)
+			expect(t, call("PageInBook", impl.MaxPages, c.per, c.signature, page), got(n, ok), got(0, false))
+		}
+	}
+}
+
 func TestInvalidSheets(t *testing.T) {
 	for _, sheets := range outside(1, impl.MaxSheets) {
 		for _, sheet := range []int{1, 2, impl.MaxSheets, sheets} {
