@@ -67,7 +67,8 @@ func TestSignaturesPastTheEndOfNumbers(t *testing.T) {
 }
 
 func TestInvalidSheets(t *testing.T) {
-	for _, sheets := range outside(1, impl.MaxSheets) {
+	// SheetsFor returns up to 500 sheets, but no function takes more than MaxSheets.
+	for _, sheets := range append(outside(1, impl.MaxSheets), 500) {
 		for _, sheet := range []int{1, 2, impl.MaxSheets, sheets} {
 			invalidSheet(t, sheets, sheet)
 		}

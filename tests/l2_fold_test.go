@@ -96,31 +96,24 @@ func TestSheetsForBooks(t *testing.T) {
 			sheets++
 			blanks += 4
 		}
-		// No signature has more than MaxSheets.
-		fits := sheets <= impl.MaxSheets
-		if !fits {
-			sheets, blanks = 0, 0
-		}
 		n, ok := impl.SheetsFor(pages)
-		expect(t, call("SheetsFor", pages), got(n, ok), got(sheets, fits))
+		expect(t, call("SheetsFor", pages), got(n, ok), got(sheets, true))
 		n, ok = impl.BlankPages(pages)
-		expect(t, call("BlankPages", pages), got(n, ok), got(blanks, fits))
+		expect(t, call("BlankPages", pages), got(n, ok), got(blanks, true))
 	}
 }
 
 func TestSheetsForAtTheirEnds(t *testing.T) {
-	for _, c := range []struct {
-		pages, sheets, blanks int
-		ok                    bool
-	}{
-		{1, 1, 3, true}, {3, 1, 1, true}, {4, 1, 0, true}, {5, 2, 3, true},
-		{396, 99, 0, true}, {397, 100, 3, true}, {400, 100, 0, true},
-		{401, 0, 0, false}, {impl.MaxPages, 0, 0, false},
+	for _, c := range []struct{ pages, sheets, blanks int }{
+		{1, 1, 3}, {3, 1, 1}, {4, 1, 0}, {5, 2, 3},
+		{396, 99, 0}, {397, 100, 3}, {400, 100, 0},
+		// More sheets than MaxSheets may be returned.
+		{401, 101, 3}, {402, 101, 2}, {404, 101, 0}, {1996, 499, 0}, {1997, 500, 3}, {1999, 500, 1}, {impl.MaxPages, 500, 0},
 	} {
 		n, ok := impl.SheetsFor(c.pages)
-		expect(t, call("SheetsFor", c.pages), got(n, ok), got(c.sheets, c.ok))
+		expect(t, call("SheetsFor", c.pages), got(n, ok), got(c.sheets, true))
 		n, ok = impl.BlankPages(c.pages)
-		expect(t, call("BlankPages", c.pages), got(n, ok), got(c.blanks, c.ok))
+		expect(t, call("BlankPages", c.pages), got(n, ok), got(c.blanks, true))
 	}
 }
 
