@@ -3,6 +3,7 @@ package tests
 import (
 	"fmt"
 	"math"
+	"reflect"
 	"testing"
 )
 
@@ -26,8 +27,50 @@ func outside(least, most int) []int {
 // anyNumbers has numbers at and beside the limits of the document, and the ends of the type.
 func anyNumbers() []int {
 	numbers := []int{math.MinInt, math.MinInt + 1, math.MinInt / 2, math.MaxInt / 2, math.MaxInt - 1, math.MaxInt}
-	for _, n := range []int{0, 7, 9, 10, 16, 99, 100, 400, 1000, 2000, 6893, 4000000} {
+	for _, n := range []int{0, 7, 9, 10, 16, 60, 99, 100, 200, 400, 1000, 2000, 3000, 6893, 4000000} {
 		numbers = append(numbers, -n-1, -n, n-1, n, n+1)
 	}
 	return numbers
+}
+
+// zeroUnlessOK looks at the results of a call, the last of which tells whether it succeeded.
+func zeroUnlessOK(t *testing.T, what string, results ...any) {
+	t.Helper()
+	if results[len(results)-1] == true {
+		return
+	}
+	for _, result := range results {
+		if v := reflect.ValueOf(result); !v.IsZero() && (v.Kind() != reflect.Slice || v.Len() > 0) {
+			t.Errorf("%s fails with %v", what, results)
+		}
+	}
+}
+
+// checkZero calls a function of any kind, and looks at its results.
+func checkZero(t *testing.T, name string, function any, arguments ...any) {
+	t.Helper()
+	zeroUnlessOK(t, call(name, arguments...), resultsOf(function, arguments)...)
+}
+
+// wantZero calls a function of any kind, and expects that it fails with nothing but zeros.
+func wantZero(t *testing.T, name string, function any, arguments ...any) {
+	t.Helper()
+	results := resultsOf(function, arguments)
+	what := call(name, arguments...)
+	if results[len(results)-1] != false {
+		t.Errorf("%s succeeds with %v", what, results)
+	}
+	zeroUnlessOK(t, what, results...)
+}
+
+func resultsOf(function any, arguments []any) []any {
+	var values []reflect.Value
+	for _, argument := range arguments {
+		values = append(values, reflect.ValueOf(argument))
+	}
+	var results []any
+	for _, result := range reflect.ValueOf(function).Call(values) {
+		results = append(results, result.Interface())
+	}
+	return results
 }
