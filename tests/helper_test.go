@@ -74,3 +74,16 @@ func resultsOf(function any, arguments []any) []any {
 	}
 	return results
 }
+
+// wantOwnMemory changes a returned list, and what is behind its length, and expects that neither a second call nor the room of the arguments has changed.
+func wantOwnMemory(t *testing.T, name string, list func() []int, room []int) {
+	t.Helper()
+	first := list()
+	before, roomBefore := got(first), got(room)
+	for k := range first {
+		first[k] = -1
+	}
+	_ = append(first, -2, -3)
+	expect(t, "a second "+name, got(list()), before)
+	expect(t, "the room behind "+name, got(room), roomBefore)
+}
