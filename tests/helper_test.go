@@ -4,7 +4,9 @@ import (
 	"fmt"
 	"math"
 	"reflect"
+	"runtime"
 	"testing"
+	"time"
 )
 
 // got packs the results of a call, so that all of them are compared at once.
@@ -86,4 +88,20 @@ func wantOwnMemory(t *testing.T, name string, list func() []int, room []int) {
 	_ = append(first, -2, -3)
 	expect(t, "a second "+name, got(list()), before)
 	expect(t, "the room behind "+name, got(room), roomBefore)
+}
+
+// wantNoneLeft makes calls again and again, and expects that all goroutines of them end.
+func wantNoneLeft(t *testing.T, calls func()) {
+	t.Helper()
+	before := runtime.NumGoroutine()
+	for range 1000 {
+		calls()
+	}
+	// A goroutine that has done its last step is counted for a moment still.
+	for wait := 0; runtime.NumGoroutine() > before && wait < 1000; wait++ {
+		time.Sleep(time.Millisecond)
+	}
+	if after := runtime.NumGoroutine(); after > before {
+		t.Error(after-before, "goroutines are left")
+	}
 }

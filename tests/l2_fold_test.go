@@ -1,9 +1,7 @@
 package tests
 
 import (
-	"runtime"
 	"testing"
-	"time"
 
 	"loop.example/g01394/impl"
 )
@@ -420,17 +418,9 @@ func TestFoldsKeepTheirMemory(t *testing.T) {
 }
 
 func TestSendersEnd(t *testing.T) {
-	before := runtime.NumGoroutine()
-	for range 1000 {
+	wantNoneLeft(t, func() {
 		impl.PlaceOfPage(impl.MaxSheets, 1)
 		impl.SheetOfPartners(1, 400, impl.MaxSheets)
 		impl.PrintOrder(2)
-	}
-	// A goroutine that has done its last step is counted for a moment still.
-	for wait := 0; runtime.NumGoroutine() > before && wait < 1000; wait++ {
-		time.Sleep(time.Millisecond)
-	}
-	if after := runtime.NumGoroutine(); after > before {
-		t.Error(after-before, "goroutines are left")
-	}
+	})
 }
