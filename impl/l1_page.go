@@ -367,12 +367,13 @@ func tornPairs(pages int, sum int) (many int, lesser int, greater int) {
 }
 
 func isPageList(pages []int) bool {
-	if len(pages) < 1 || len(pages) > maxListed {
-		return false
-	}
+	return len(pages) >= 1 && len(pages) <= maxListed && areIncreasing(pages, MaxPages)
+}
+
+func areIncreasing(pages []int, most int) bool {
 	before := 0
 	for _, page := range pages {
-		if page <= before || page > MaxPages {
+		if page <= before || page > most {
 			return false
 		}
 		before = page

@@ -77,15 +77,18 @@ func resultsOf(function any, arguments []any) []any {
 	return results
 }
 
-// wantOwnMemory changes a returned list, and what is behind its length, and expects that neither a second call nor the room of the arguments has changed.
-func wantOwnMemory(t *testing.T, name string, list func() []int, room []int) {
+// notNil tells no nil list from an empty one, as the document does not.
+func notNil[T any](list []T) []T { return append([]T{}, list...) }
+
+// wantOwnMemory puts other items into a returned list, and behind its length, and expects that neither a second call nor the room of the arguments has changed.
+func wantOwnMemory[T any](t *testing.T, name string, list func() []T, room any, other T) {
 	t.Helper()
 	first := list()
 	before, roomBefore := got(first), got(room)
 	for k := range first {
-		first[k] = -1
+		first[k] = other
 	}
-	_ = append(first, -2, -3)
+	_ = append(first, other, other)
 	expect(t, "a second "+name, got(list()), before)
 	expect(t, "the room behind "+name, got(room), roomBefore)
 }

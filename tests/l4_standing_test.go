@@ -326,7 +326,7 @@ func TestStandingsKeepTheirMemory(t *testing.T) {
 		"MoveVolume back":      func() []int { l, _ := impl.MoveVolume(order, 3, 0); return l },
 		"MoveVolume of no way": func() []int { l, _ := impl.MoveVolume(order, 1, 1); return l },
 	} {
-		wantOwnMemory(t, name, list, room)
+		wantOwnMemory(t, name, list, room, -1)
 	}
 	expect(t, "the room of standings", got(room), got([]int{2, 0, 1, 3, 99}))
 }
