@@ -29,7 +29,7 @@ func outside(least, most int) []int {
 // anyNumbers has numbers at and beside the limits of the document, and the ends of the type.
 func anyNumbers() []int {
 	numbers := []int{math.MinInt, math.MinInt + 1, math.MinInt / 2, math.MaxInt / 2, math.MaxInt - 1, math.MaxInt}
-	for _, n := range []int{0, 7, 9, 10, 16, 60, 99, 100, 200, 400, 1000, 2000, 3000, 6893, 4000000} {
+	for _, n := range []int{0, 7, 9, 10, 12, 16, 30, 60, 80, 99, 100, 200, 400, 1000, 2000, 3000, 6893, 4000000} {
 		numbers = append(numbers, -n-1, -n, n-1, n, n+1)
 	}
 	return numbers
@@ -75,6 +75,25 @@ func resultsOf(function any, arguments []any) []any {
 		results = append(results, result.Interface())
 	}
 	return results
+}
+
+// mixedLists has lists of least up to most numbers, some of numbers up to each limit, which follow no rule that one could see.
+func mixedLists(least, most, times int, limits ...int) [][]int {
+	var lists [][]int
+	next := 1
+	for many := least; many <= most; many++ {
+		for _, limit := range limits {
+			for range times {
+				var list []int
+				for range many {
+					next = next * 75 % 65537
+					list = append(list, next%limit+1)
+				}
+				lists = append(lists, list)
+			}
+		}
+	}
+	return lists
 }
 
 // notNil tells no nil list from an empty one, as the document does not.

@@ -49,20 +49,7 @@ func leastPartings(chapters []int) []parting {
 // listsToPart has chapters of very different pages, and of nearly the same.
 func listsToPart() [][]int {
 	lists := append(allChapters(5, 3), longChapters()...)
-	next := 1
-	for many := 2; many <= impl.MaxChapters; many++ {
-		for _, most := range []int{2, 5, 20, impl.MaxChapter} {
-			for range 5 {
-				var chapters []int
-				for range many {
-					next = next * 75 % 65537
-					chapters = append(chapters, next%most+1)
-				}
-				lists = append(lists, chapters)
-			}
-		}
-	}
-	return lists
+	return append(lists, mixedLists(2, impl.MaxChapters, 5, 2, 5, 20, impl.MaxChapter)...)
 }
 
 func TestVolumeExample(t *testing.T) {
