@@ -5,6 +5,7 @@ import (
 	"math"
 	"reflect"
 	"runtime"
+	"slices"
 	"testing"
 	"time"
 )
@@ -92,6 +93,21 @@ func mixedLists(least, most, times int, limits ...int) [][]int {
 				lists = append(lists, list)
 			}
 		}
+	}
+	return lists
+}
+
+// allLists returns all lists of so many numbers from least up to most, in order.
+func allLists(many, least, most int) [][]int {
+	lists := [][]int{{}}
+	for range many {
+		var longer [][]int
+		for _, list := range lists {
+			for n := least; n <= most; n++ {
+				longer = append(longer, append(slices.Clone(list), n))
+			}
+		}
+		lists = longer
 	}
 	return lists
 }

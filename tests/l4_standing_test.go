@@ -38,10 +38,10 @@ func allStandings(many int) [][]int {
 	return all
 }
 
-// farFromOrder returns for each standing how many steps lead to it from the one in order. It requires that each step can be taken back.
-func farFromOrder(many int, steps func(order []int) [][]int) map[standing]int {
-	far := map[standing]int{standingOf(inOrder(many)): 0}
-	for next := [][]int{inOrder(many)}; len(next) > 0; {
+// farFrom returns for each list how many steps lead to it from the first one. It requires that each step can be taken back.
+func farFrom(first []int, steps func(order []int) [][]int) map[standing]int {
+	far := map[standing]int{standingOf(first): 0}
+	for next := [][]int{first}; len(next) > 0; {
 		order := next[0]
 		next = next[1:]
 		for _, stepped := range steps(order) {
@@ -126,7 +126,7 @@ func plainStay(order []int) []int {
 func wantMended(t *testing.T, name string, function func([]int) (int, bool), steps func([]int) [][]int) {
 	t.Helper()
 	for many := 1; many <= impl.MaxStanding; many++ {
-		far := farFromOrder(many, steps)
+		far := farFrom(inOrder(many), steps)
 		for _, order := range allStandings(many) {
 			n, ok := function(order)
 			if want := far[standingOf(order)]; n != want || !ok {
@@ -157,7 +157,8 @@ func TestIsStanding(t *testing.T) {
 		}
 	}
 	for many := 1; many <= 5; many++ {
-		for _, list := range listsOf(many) {
+		// One less and one more than volumes can be are in these lists, too.
+		for _, list := range allLists(many, -1, many) {
 			sorted := slices.Sorted(slices.Values(list))
 			expect(t, call("IsStanding", list), impl.IsStanding(list), slices.Equal(sorted, inOrder(many)))
 		}
@@ -165,21 +166,6 @@ func TestIsStanding(t *testing.T) {
 	for _, order := range noStandings() {
 		expect(t, call("IsStanding", len(order)), impl.IsStanding(order), false)
 	}
-}
-
-// listsOf returns all lists of so many numbers, each from -1 up to as many: one less and one more than volumes can be.
-func listsOf(many int) [][]int {
-	lists := [][]int{{}}
-	for range many {
-		var longer [][]int
-		for _, list := range lists {
-			for n := -1; n <= many; n++ {
-				longer = append(longer, append(slices.Clone(list), n))
-			}
-		}
-		lists = longer
-	}
-	return lists
 }
 
 func TestFewestMoves(t *testing.T) {

@@ -51,16 +51,8 @@ func plainBeginnings(book []plainPage) []int {
 // allChapters returns all lists of up to so many chapters, each with 1 up to most pages.
 func allChapters(many, most int) [][]int {
 	var all [][]int
-	lists := [][]int{{}}
-	for range many {
-		var longer [][]int
-		for _, list := range lists {
-			for pages := 1; pages <= most; pages++ {
-				longer = append(longer, append(slices.Clone(list), pages))
-			}
-		}
-		all = append(all, longer...)
-		lists = longer
+	for long := 1; long <= many; long++ {
+		all = append(all, allLists(long, 1, most)...)
 	}
 	return all
 }
